@@ -38,14 +38,7 @@ func languageUpTo(r impl.Regex, n int) language {
 	case impl.RxCat:
 		return args[0].followedBy(args[1], n)
 	case impl.RxStar:
-		all := language{"": true}
-		for size := 0; size < len(all); {
-			size = len(all)
-			for s := range all.followedBy(args[0], n) {
-				all[s] = true
-			}
-		}
-		return all
+		return args[0].repeated(n)
 	}
 	all := language{}
 	for _, s := range stringsOver("abc", n) {
@@ -81,6 +74,17 @@ func (l language) followedBy(other language, n int) language {
 		}
 	}
 	return list
+}
+
+func (l language) repeated(n int) language {
+	all := language{"": true}
+	for size := 0; size < len(all); {
+		size = len(all)
+		for s := range all.followedBy(l, n) {
+			all[s] = true
+		}
+	}
+	return all
 }
 
 // partsTable tells for each i and j whether s[i:j] belongs to the language; it has no limit for the length of s.

@@ -988,17 +988,20 @@ func memoryOf(d impl.Dfa, places map[any]bool) int {
 	return count
 }
 
-// resultsOf calls all functions that return automata.
+// resultsOf calls all functions that return automata and take them.
 func resultsOf(a impl.Dfa, b impl.Dfa) []impl.Dfa {
 	or, _ := impl.ProductDfa(a, b, impl.RxOr)
 	and, _ := impl.ProductDfa(a, b, impl.RxAnd)
-	return []impl.Dfa{impl.MinimizeDfa(a), impl.ComplementDfa(a), impl.MinimizeDfa(b), impl.ComplementDfa(b), or, and}
+	concat, _ := impl.ConcatDfa(a, b)
+	star, _ := impl.StarDfa(a)
+	return []impl.Dfa{impl.MinimizeDfa(a), impl.ComplementDfa(a), impl.MinimizeDfa(b), impl.ComplementDfa(b), or, and, concat, star}
 }
 
 func TestAutomataAreNewMemory(t *testing.T) {
 	shared := []int{0, 0, 0}
 	twice := impl.Dfa{Accept: []bool{true, false}, Next: [][]int{shared, shared}}
 	list := append(randomAutomata(100), twice, twice, statesOf("+000"), statesOf("-000"), counter(40, "a", isZeroNumber), counter(40, "a", isZeroNumber))
+	list = append(list, smallAutomata(100)...)
 	for i, a := range list {
 		b := list[(i+1)%len(list)]
 		places, count := map[any]bool{}, 0
@@ -1043,6 +1046,7 @@ func hasSameMemory(a impl.Dfa, b impl.Dfa) bool {
 
 func TestAutomataFunctionsKeepTheirArguments(t *testing.T) {
 	list := append(randomAutomata(100), statesOf("+000"), counter(40, "a", isZeroNumber))
+	list = append(list, smallAutomata(100)...)
 	for name, d := range invalidAutomata() {
 		if !strings.Contains(name, "100000") {
 			list = append(list, d)
